@@ -522,3 +522,49 @@ func sixFlows(seed, most, mask int) api.Net {
 	}
 	return n
 }
+
+// TestRise: of nets that may be it tells what the other two do; of one with more links it goes on as the document's words say.
+func TestRise(t *testing.T) {
+	for _, c := range right {
+		risen(t, c.n, c.rates, c.rounds, api.OK, c.name)
+	}
+	for seed := range 2_000 {
+		n := sixFlows(seed, 40, 3)
+		n.Caps = slices.Concat(n.Caps, sixFlows(seed+1, 9, 1).Caps)
+		for flow, path := range n.Paths {
+			n.Paths[flow] = append(path, maxLinks+flow)
+		}
+		rates, rounds := asked(n)
+		risen(t, n, rates, rounds, api.OK, n)
+	}
+}
+
+// TestRiseEnds: at nets that may not be there is no panic, and with an error nothing else.
+func TestRiseEnds(t *testing.T) {
+	for _, c := range faulty {
+		if len(c.n.Caps) > 100 || len(c.n.Paths) > 100 {
+			continue
+		}
+		if rates, rounds, err := fill.Rise(c.n); err != nil && (rates != nil || rounds != nil || plain.Told(err) < api.ErrRange) {
+			t.Errorf("%s: got %v, %v, %v", c.name, rates, rounds, err)
+		}
+	}
+	risen(t, mesh(l(5), nil), nil, nil, api.ErrNone, "the only flow over none")
+	risen(t, mesh(l(5), l(0), nil), nil, nil, api.ErrNone, "the last flow over none")
+	risen(t, mesh(l(5), l(0), l(1)), nil, nil, api.ErrNone, "the last flow over none such")
+	risen(t, mesh(l(math.MaxInt), l(0)), nil, nil, api.ErrRange, "a link takes the greatest int")
+	risen(t, mesh(l(math.MinInt), l(0)), nil, nil, api.ErrRange, "a link takes the least int")
+}
+
+// risen checks what Rise answers, and that the net is then as it was.
+func risen(t *testing.T, n api.Net, rates []api.Frac, rounds [][]int, no api.Errno, name ...any) {
+	t.Helper()
+	was := whole(n)
+	got, held, err := fill.Rise(n)
+	if !slices.Equal(got, rates) || !sameRounds(held, rounds) || plain.Told(err) != no {
+		t.Errorf("Rise, %v: got %v, %v, %v; want %v, %v, %v", name, got, held, err, rates, rounds, no)
+	}
+	if !reflect.DeepEqual(whole(n), was) {
+		t.Errorf("Rise, %v: the net was %v, and is %v", name, was, whole(n))
+	}
+}
